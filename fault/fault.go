@@ -8,8 +8,11 @@ import (
 
 // The reasons, to be asked for with errors.Is.
 var (
-	ErrArg  = errors.New("a number that may not be")
-	ErrLate = errors.New("something would be late")
+	ErrArg   = errors.New("a number that may not be")
+	ErrLate  = errors.New("something would be late")
+	ErrNone  = errors.New("there is no such flow")
+	ErrSize  = errors.New("a packet of a size that may not be")
+	ErrQuota = errors.New("as many packets wait as may")
 )
 
 // Violation is ErrLate with the tick by which it would be so, to be asked for with errors.As.

@@ -14,6 +14,12 @@ func errno(err error) api.Errno {
 		return api.ErrArg
 	case errors.Is(err, fault.ErrLate):
 		return api.ErrLate
+	case errors.Is(err, fault.ErrNone):
+		return api.ErrNone
+	case errors.Is(err, fault.ErrSize):
+		return api.ErrSize
+	case errors.Is(err, fault.ErrQuota):
+		return api.ErrQuota
 	}
 	return api.OK
 }

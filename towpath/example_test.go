@@ -25,3 +25,19 @@ func ExampleTest() {
 	// 0 0
 	// 14 3
 }
+
+func ExampleLine() {
+	l, _ := towpath.New([]api.Flow{{Size: 2, Peak: 12, Burst: 2, Rate: 3, Due: 20}})
+	l.Send(0, 2)
+	l.Send(0, 2)
+	l.Other(5)
+	l.Run(9)
+	fmt.Println(l.Gone())
+	fmt.Println(l.Look())
+	l.Run(11)
+	fmt.Println(l.Gone())
+	// Output:
+	// [{0 0 2 0 0 2} {-1 0 5 0 2 7}]
+	// {9 [0] [] 0 0 true}
+	// [{0 1 2 8 8 10}]
+}

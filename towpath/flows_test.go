@@ -66,6 +66,13 @@ func wantTest(t *testing.T, l []api.Flow, want int, wantErr api.Errno) {
 	}
 }
 
+func wantNew(t *testing.T, l []api.Flow, wantErr api.Errno) {
+	t.Helper()
+	if x, e := towpath.New(l); e != wantErr || (x != nil) != (wantErr == api.OK) {
+		t.Errorf("P5: New(%v): a line is %v, %d, want %d", l, x != nil, e, wantErr)
+	}
+}
+
 func TestMostOfTheDocument(t *testing.T) {
 	f := api.Flow{Size: 2, Peak: 12, Burst: 6, Rate: 3, Due: 20}
 	for _, c := range [][2]int{{-1, 0}, {0, 2}, {1, 3}, {4, 6}, {8, 8}, {9, 8}} {
@@ -133,9 +140,11 @@ func TestBoundsOfAFlow(t *testing.T) {
 			if !c.mayBe {
 				wantMost(t, c.f, 0, 0, api.ErrArg)
 				wantTest(t, []api.Flow{c.f}, 0, api.ErrArg)
+				wantNew(t, []api.Flow{plain, c.f}, api.ErrArg)
 				return
 			}
 			wantMost(t, c.f, 0, c.f.Size, api.OK)
+			wantNew(t, []api.Flow{plain, c.f}, api.OK)
 			if _, e := towpath.Test([]api.Flow{c.f}); e == api.ErrArg {
 				t.Errorf("P4: Test(%v) = ErrArg", c.f)
 			}

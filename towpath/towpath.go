@@ -4,6 +4,7 @@ package towpath
 import (
 	"towpath/api"
 	"towpath/flows"
+	"towpath/line"
 )
 
 // Most tells how much of a flow may come in so many ticks (P3).
@@ -19,25 +20,33 @@ func Test(l []api.Flow) (int, api.Errno) {
 }
 
 // Line is a line.
-type Line struct{}
+type Line struct {
+	inner *line.Line
+}
 
 // New makes a line with flows (P5).
-func New(l []api.Flow) (*Line, api.Errno) { return nil, api.OK }
+func New(l []api.Flow) (*Line, api.Errno) {
+	inner, err := line.New(l)
+	if err != nil {
+		return nil, errno(err)
+	}
+	return &Line{inner}, api.OK
+}
 
 // Send brings a packet of a flow (P6).
-func (l *Line) Send(flow int, size int) api.Errno { return api.OK }
+func (l *Line) Send(flow int, size int) api.Errno { return errno(l.inner.Send(flow, size)) }
 
 // Other brings a packet of none (P6).
-func (l *Line) Other(size int) api.Errno { return api.OK }
+func (l *Line) Other(size int) api.Errno { return errno(l.inner.Other(size)) }
 
 // Run lets ticks go by (P7).
-func (l *Line) Run(ticks int) api.Errno { return api.OK }
+func (l *Line) Run(ticks int) api.Errno { return errno(l.inner.Run(ticks)) }
 
 // Gone tells the packets that have gone (P8).
-func (l *Line) Gone() []api.Gone { return nil }
+func (l *Line) Gone() []api.Gone { return l.inner.Gone() }
 
 // Look tells how the line stands (P8).
-func (l *Line) Look() api.View { return api.View{} }
+func (l *Line) Look() api.View { return l.inner.Look() }
 
 // Setup adds a flow, if it fits (P9).
 func (l *Line) Setup(f api.Flow) (int, int, api.Errno) { return 0, 0, api.OK }
