@@ -9,6 +9,7 @@ import (
 // The reasons, to be asked for with errors.Is.
 var (
 	ErrArg   = errors.New("a number that may not be")
+	ErrFull  = errors.New("there are as many flows as may")
 	ErrLate  = errors.New("something would be late")
 	ErrNone  = errors.New("there is no such flow")
 	ErrSize  = errors.New("a packet of a size that may not be")

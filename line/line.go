@@ -17,16 +17,18 @@ type flow struct {
 	brought int      // how many packets of it there ever were
 	waiting int      // how many of them have not begun, those that stand in the line's queue too
 	held    []packet // those that do not stand there yet, in their order
+	torn    bool     // it does not live any more, but lingers
 }
 
 // Line is a line. Its parts are written into by its own calls alone.
 type Line struct {
-	now     int
-	flows   map[int]*flow
-	ready   queue
-	others  []packet   // of none, in their order
-	brought int        // how many packets of none there ever were
-	begun   []api.Gone // in their order, those that Gone has not told; all but the last one have ended
+	now      int
+	flows    map[int]*flow // those that live and those that linger
+	numbered int           // how many flows there ever were
+	ready    queue
+	others   []packet   // of none, in their order
+	brought  int        // how many packets of none there ever were
+	begun    []api.Gone // in their order, those that Gone has not told; all but the last one have ended
 }
 
 // New is a line at the tick 0 with flows that are numbered by their places: ErrArg, if there may not be these flows.
@@ -35,20 +37,20 @@ func New(l []api.Flow) (*Line, error) {
 		return nil, fault.In("New", err)
 	}
 	made := &Line{flows: map[int]*flow{}}
-	for number, shape := range l {
-		made.flows[number] = &flow{shape: shape, gate: flows.NewGate(shape)}
+	for _, shape := range l {
+		made.add(shape)
 	}
 	return made, nil
 }
 
 // Send brings a packet of a flow: ErrNone, if there is no such flow; ErrSize, ErrQuota, if it does not take the packet.
 func (l *Line) Send(number, size int) error {
-	f, there := l.flows[number]
-	if !there {
-		return atFlow(number, fault.ErrNone)
+	f, err := l.live(number)
+	if err != nil {
+		return atFlow("Send", number, err)
 	}
 	if err := accept(size, f.shape.Size, f.waiting); err != nil {
-		return atFlow(number, err)
+		return atFlow("Send", number, err)
 	}
 	f.held = append(f.held, packet{number, f.brought, size, f.gate.Pass(l.now, size)})
 	f.brought++
@@ -56,8 +58,8 @@ func (l *Line) Send(number, size int) error {
 	return nil
 }
 
-func atFlow(number int, err error) error {
-	return fault.In("Send", fault.In("flow "+strconv.Itoa(number), err))
+func atFlow(call string, number int, err error) error {
+	return fault.In(call, fault.In("flow "+strconv.Itoa(number), err))
 }
 
 // Other brings a packet of none: ErrSize, ErrQuota, if it is not taken.
@@ -103,9 +105,14 @@ func (l *Line) Gone() []api.Gone {
 func (l *Line) Look() api.View {
 	v := api.View{Now: l.now, Others: len(l.others), Busy: l.busy()}
 	for number, f := range l.flows {
-		v.Live = append(v.Live, number)
 		v.Waiting += f.waiting
+		if f.torn {
+			v.Stays = append(v.Stays, number)
+		} else {
+			v.Live = append(v.Live, number)
+		}
 	}
 	slices.Sort(v.Live)
+	slices.Sort(v.Stays)
 	return v
 }

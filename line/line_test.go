@@ -44,6 +44,74 @@ func TestErrorsTellReasonAndPlace(t *testing.T) {
 	}
 	wantErr(t, l.Send(1, 1), fault.ErrQuota, "Send: flow 1: 40 wait: as many packets wait as may")
 	wantErr(t, l.Other(1), fault.ErrQuota, "Other: 40 wait: as many packets wait as may")
+	wantErr(t, l.Teardown(2), fault.ErrNone, "Teardown: flow 2: there is no such flow")
+}
+
+func TestErrorsOfSetupTellReasonAndPlace(t *testing.T) {
+	late := api.Flow{Size: 8, Peak: 12, Burst: 30, Rate: 12, Due: 8}
+	l := newLine(t, plain, plain, plain, plain, plain)
+	_, err := l.Setup(api.Flow{Size: 8, Burst: 7})
+	wantErr(t, err, fault.ErrArg, "Setup: Burst: a number that may not be")
+	_, err = l.Setup(late)
+	wantErr(t, err, fault.ErrLate, "Setup: tick 8: something would be late")
+	var v fault.Violation
+	if !errors.As(err, &v) || v.At != 8 {
+		t.Errorf("the violation is %v, want that at 8", v)
+	}
+	l = newLine(t, plain, plain, plain, plain, plain, plain)
+	_, err = l.Setup(late)
+	wantErr(t, err, fault.ErrFull, "Setup: 6 flows: there are as many flows as may")
+	if errors.Is(err, fault.ErrLate) {
+		t.Errorf("%v tells two reasons", err)
+	}
+}
+
+// A flow that is away is not kept, nor is anything of its packets.
+func TestKeepsNoFlowThatIsAway(t *testing.T) {
+	l := newLine(t)
+	for i := range 2000 {
+		number, err := l.Setup(plain)
+		if err != nil || number != i {
+			t.Fatalf("Setup = %d, %v, want %d", number, err, i)
+		}
+		for range api.MaxWait {
+			_ = l.Send(number, 4)
+		}
+		if err := errors.Join(l.Run(1), l.Teardown(number), l.Run(8)); err != nil {
+			t.Fatal(err)
+		}
+		l.Gone()
+		if room := cap(l.begun) + cap(l.ready) + cap(l.others); len(l.flows) > 0 || room > 8*api.MaxWait {
+			t.Fatalf("at the tick %d: %d flows, and there is room for %d", l.now, len(l.flows), room)
+		}
+	}
+}
+
+// What is ready and what is under way is of flows that are there: each packet finds its flow.
+func TestReadyPacketsKeepTheirFlow(t *testing.T) {
+	r := rand.New(rand.NewSource(2))
+	l := newLine(t, plain, plain, plain)
+	for range 5000 {
+		_, _ = l.Setup(api.Flow{Size: 4, Peak: 12, Burst: 10, Rate: 1, Due: 60 + r.Intn(40)})
+		v := l.Look()
+		for _, number := range v.Live {
+			_ = l.Send(number, 1+r.Intn(4))
+		}
+		if len(v.Live) > 0 {
+			_ = l.Teardown(v.Live[r.Intn(len(v.Live))])
+		}
+		if err := l.Run(r.Intn(6)); err != nil {
+			t.Fatal(err)
+		}
+		for _, e := range l.ready {
+			if l.flows[e.flow] == nil {
+				t.Fatalf("at the tick %d there is %v, but no such flow", l.now, e)
+			}
+		}
+		if l.carries() && l.flows[l.begun[len(l.begun)-1].Flow] == nil {
+			t.Fatalf("at the tick %d %v is under way, but there is no such flow", l.now, l.begun[len(l.begun)-1])
+		}
+	}
 }
 
 // The order in which packets came into the queue is not to be seen in that in which they go.

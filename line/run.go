@@ -15,6 +15,7 @@ func (l *Line) Run(ticks int) error {
 	}
 	for range ticks {
 		l.release()
+		l.settle()
 		l.begin()
 		l.now++
 	}

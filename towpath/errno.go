@@ -12,6 +12,8 @@ func errno(err error) api.Errno {
 	switch {
 	case errors.Is(err, fault.ErrArg):
 		return api.ErrArg
+	case errors.Is(err, fault.ErrFull):
+		return api.ErrFull
 	case errors.Is(err, fault.ErrLate):
 		return api.ErrLate
 	case errors.Is(err, fault.ErrNone):

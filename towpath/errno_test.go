@@ -17,6 +17,7 @@ func TestErrnoFindsTheReasonWithin(t *testing.T) {
 		{nil, api.OK, 0},
 		{fault.ErrArg, api.ErrArg, 0},
 		{fault.In("a", fault.In("b", fault.ErrArg)), api.ErrArg, 0},
+		{fault.In("a", fault.ErrFull), api.ErrFull, 0},
 		{fault.In("a", fault.ErrNone), api.ErrNone, 0},
 		{fault.In("a", fault.ErrSize), api.ErrSize, 0},
 		{fault.In("a", fault.ErrQuota), api.ErrQuota, 0},

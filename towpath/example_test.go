@@ -41,3 +41,23 @@ func ExampleLine() {
 	// {9 [0] [] 0 0 true}
 	// [{0 1 2 8 8 10}]
 }
+
+func ExampleLine_Setup() {
+	l, _ := towpath.New(nil)
+	tight := api.Flow{Size: 8, Peak: 12, Burst: 8, Rate: 0, Due: 15}
+	fmt.Println(l.Setup(tight))
+	fmt.Println(l.Setup(tight))
+	l.Send(0, 8)
+	l.Run(1)
+	l.Teardown(0)
+	fmt.Println(l.Look())
+	fmt.Println(l.Setup(tight))
+	l.Run(8)
+	fmt.Println(l.Setup(tight))
+	// Output:
+	// 0 0 0
+	// 0 15 3
+	// {1 [] [0] 0 0 true}
+	// 0 15 3
+	// 1 0 0
+}

@@ -141,10 +141,14 @@ func TestBoundsOfAFlow(t *testing.T) {
 				wantMost(t, c.f, 0, 0, api.ErrArg)
 				wantTest(t, []api.Flow{c.f}, 0, api.ErrArg)
 				wantNew(t, []api.Flow{plain, c.f}, api.ErrArg)
+				wantSetup(t, newLine(t), c.f, 0, 0, api.ErrArg)
 				return
 			}
 			wantMost(t, c.f, 0, c.f.Size, api.OK)
 			wantNew(t, []api.Flow{plain, c.f}, api.OK)
+			if _, _, e := newLine(t).Setup(c.f); e == api.ErrArg {
+				t.Errorf("P9: Setup(%v) = ErrArg", c.f)
+			}
 			if _, e := towpath.Test([]api.Flow{c.f}); e == api.ErrArg {
 				t.Errorf("P4: Test(%v) = ErrArg", c.f)
 			}
@@ -180,6 +184,7 @@ func mostOfSomeTicks(t *testing.T, f api.Flow) {
 	}
 	if !mayBe(f) {
 		wantTest(t, []api.Flow{f}, 0, api.ErrArg)
+		wantSetup(t, newLine(t), f, 0, 0, api.ErrArg)
 	}
 }
 

@@ -354,10 +354,18 @@ func TestListsThatComeOutAreNew(t *testing.T) {
 	}
 }
 
-// call makes the same call, any one, on a line and on a slow one.
+// anyNumber is most often that of a flow that lives.
+func anyNumber(r *rand.Rand, slow *slowLine) int {
+	if live := slow.numbers(lives); len(live) > 0 && r.Intn(8) > 0 {
+		return live[r.Intn(len(live))]
+	}
+	return r.Intn(len(slow.flows)+2) - 1
+}
+
+// call makes the same call, any one but Setup and Teardown, on a line and on a slow one.
 func call(t *testing.T, r *rand.Rand, x *towpath.Line, slow *slowLine) {
 	t.Helper()
-	flow, size := r.Intn(len(slow.flows)+1)-r.Intn(2), 1+r.Intn(1+r.Intn(8))
+	flow, size := anyNumber(r, slow), 1+r.Intn(1+r.Intn(8))
 	if r.Intn(20) == 0 {
 		size = r.Intn(13) - 2
 	}
@@ -398,7 +406,7 @@ func TestLineIsAsTheDocumentSays(t *testing.T) {
 		if i%2 == 0 {
 			l = closeFlows(r)
 		}
-		x, slow := newLine(t, l...), &slowLine{flows: l}
+		x, slow := newLine(t, l...), newSlowLine(l)
 		for range 150 {
 			if call(t, r, x, slow); t.Failed() {
 				t.Fatalf("of the flows %v", l)
@@ -438,10 +446,17 @@ func TestRunsAddUp(t *testing.T) {
 		var one, many []api.Gone
 		for range 20 {
 			for range r.Intn(6) {
-				flow, size := r.Intn(7), 1+r.Intn(8)
+				flow, size := r.Intn(9), 1+r.Intn(8)
 				wantErrno(t, "P6: Send", x.Send(flow, size), y.Send(flow, size))
 				wantErrno(t, "P6: Other", x.Other(size), y.Other(size))
 			}
+			if r.Intn(4) == 0 {
+				flow := r.Intn(9)
+				wantErrno(t, "P10: Teardown", x.Teardown(flow), y.Teardown(flow))
+			}
+			f := anyFlow(r)
+			number, at, e := y.Setup(f)
+			wantSetup(t, x, f, number, at, e)
 			ticks := r.Intn(30)
 			run(t, x, ticks)
 			for range ticks {
@@ -458,68 +473,6 @@ func TestRunsAddUp(t *testing.T) {
 	}
 }
 
-// P11: flows that fit are not late, whatever is sent.
-func TestFlowsThatFitAreNotLate(t *testing.T) {
-	r := rand.New(rand.NewSource(9))
-	gone := 0
-	for range 1500 {
-		l := anyFlows(r)
-		if at, _ := towpath.Test(l); at > 0 {
-			continue
-		}
-		x := newLine(t, l...)
-		for range 60 {
-			for flow := range l {
-				for range r.Intn(6) {
-					x.Send(flow, 1+r.Intn(l[flow].Size))
-				}
-			}
-			x.Other(1 + r.Intn(8))
-			run(t, x, r.Intn(20))
-			for _, p := range x.Gone() {
-				if p.Flow >= 0 {
-					gone++
-				}
-				if p.Flow >= 0 && p.Done > p.Ready+l[p.Flow].Due {
-					t.Fatalf("P11: of %v, that fit, %+v is late", l, p)
-				}
-			}
-		}
-	}
-	if gone < 20000 {
-		t.Fatalf("%d have gone: this shows too little", gone)
-	}
-}
-
-// P11: flows that do not fit can be made late.
-func TestFlowsThatDoNotFitAreLate(t *testing.T) {
-	r := rand.New(rand.NewSource(10))
-	shown := 0
-	for range 2000 {
-		l := anyFlows(r)
-		at, _ := towpath.Test(l)
-		many := slices.ContainsFunc(l, func(f api.Flow) bool { return mayCome(f, at-f.Due) > 40 })
-		if at == 0 || many {
-			continue
-		}
-		shown++
-		x := newLine(t, l...)
-		other(t, x, 8)
-		run(t, x, 1)
-		for flow, f := range l {
-			send(t, x, flow, slices.Repeat([]int{1}, mayCome(f, at-f.Due))...)
-		}
-		run(t, x, 200)
-		run(t, x, 200)
-		if !slices.ContainsFunc(x.Gone(), func(p api.Gone) bool { return p.Flow >= 0 && p.Done > p.Ready+l[p.Flow].Due }) {
-			t.Fatalf("P11: of %v nothing is late, though %d is a violation", l, at)
-		}
-	}
-	if shown < 100 {
-		t.Fatalf("%d do not fit: this shows too little", shown)
-	}
-}
-
 // P2: lines that are used at the same time do not see each other.
 func TestLinesAtTheSameTime(t *testing.T) {
 	var group sync.WaitGroup
@@ -533,7 +486,7 @@ func TestLinesAtTheSameTime(t *testing.T) {
 					t.Errorf("P5: New(%v) = %d", l, e)
 					return
 				}
-				slow := &slowLine{flows: l}
+				slow := newSlowLine(l)
 				for range 60 {
 					call(t, r, x, slow)
 				}

@@ -10,9 +10,22 @@ import (
 // slowLine is a line written anew from the document: it keeps every packet there ever was, and looks through all of
 // them whenever it is asked, so that what a line answers is held against something else than itself.
 type slowLine struct {
-	flows   []api.Flow
+	flows   []api.Flow // all that ever were there, by their numbers
+	states  []slowState
 	now     int
 	packets []*slowPacket
+}
+
+type slowState int
+
+const (
+	lives slowState = iota
+	lingers
+	away
+)
+
+func newSlowLine(l []api.Flow) *slowLine {
+	return &slowLine{flows: slices.Clone(l), states: make([]slowState, len(l))}
 }
 
 type slowPacket struct {
@@ -65,8 +78,12 @@ func mayBeReady(f api.Flow, p *slowPacket, ahead []*slowPacket) bool {
 	return p.Size <= mayCome(f, 0)
 }
 
+func (l *slowLine) lives(flow int) bool {
+	return flow >= 0 && flow < len(l.flows) && l.states[flow] == lives
+}
+
 func (l *slowLine) Send(flow, size int) api.Errno {
-	if flow < 0 || flow >= len(l.flows) {
+	if !l.lives(flow) {
 		return api.ErrNone
 	}
 	if size < 1 || size > l.flows[flow].Size {
@@ -125,6 +142,7 @@ func (l *slowLine) Run(ticks int) api.Errno {
 		return api.ErrArg
 	}
 	for range ticks {
+		l.settle()
 		if p := l.next(); p != nil && !l.busy() {
 			p.begun, p.Start, p.Done = true, l.now, l.now+p.Size
 		}
@@ -148,8 +166,56 @@ func (l *slowLine) Gone() []api.Gone {
 func (l *slowLine) Look() api.View {
 	v := api.View{Now: l.now, Others: waiting(l.of(-1)), Busy: l.busy()}
 	v.Waiting = waiting(l.packets) - v.Others
-	for i := range l.flows {
-		v.Live = append(v.Live, i)
-	}
+	v.Live, v.Stays = l.numbers(lives), l.numbers(lingers)
 	return v
+}
+
+func (l *slowLine) numbers(state slowState) []int {
+	var found []int
+	for i := range l.flows {
+		if l.states[i] == state {
+			found = append(found, i)
+		}
+	}
+	return found
+}
+
+func (l *slowLine) Setup(f api.Flow) (int, int, api.Errno) {
+	if !mayBe(f) {
+		return 0, 0, api.ErrArg
+	}
+	together := []api.Flow{f}
+	for _, i := range append(l.numbers(lives), l.numbers(lingers)...) {
+		together = append(together, l.flows[i])
+	}
+	if len(together) > 6 {
+		return 0, 0, api.ErrFull
+	}
+	if at := leastViolation(together); at > 0 {
+		return 0, at, api.ErrLate
+	}
+	l.flows = append(l.flows, f)
+	l.states = append(l.states, lives)
+	return len(l.flows) - 1, 0, api.OK
+}
+
+func (l *slowLine) isReady(p *slowPacket) bool { return !p.never && p.Ready <= l.now }
+
+func (l *slowLine) Teardown(flow int) api.Errno {
+	if !l.lives(flow) {
+		return api.ErrNone
+	}
+	l.packets = slices.DeleteFunc(l.packets, func(p *slowPacket) bool { return p.Flow == flow && !l.isReady(p) })
+	l.states[flow] = lingers
+	l.settle()
+	return api.OK
+}
+
+func (l *slowLine) settle() {
+	if slices.ContainsFunc(l.packets, func(p *slowPacket) bool { return p.Flow >= 0 && l.isReady(p) && !l.ended(p) }) {
+		return
+	}
+	for _, i := range l.numbers(lingers) {
+		l.states[i] = away
+	}
 }

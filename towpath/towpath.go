@@ -49,7 +49,10 @@ func (l *Line) Gone() []api.Gone { return l.inner.Gone() }
 func (l *Line) Look() api.View { return l.inner.Look() }
 
 // Setup adds a flow, if it fits (P9).
-func (l *Line) Setup(f api.Flow) (int, int, api.Errno) { return 0, 0, api.OK }
+func (l *Line) Setup(f api.Flow) (int, int, api.Errno) {
+	number, err := l.inner.Setup(f)
+	return number, violation(err), errno(err)
+}
 
 // Teardown ends a flow (P10).
-func (l *Line) Teardown(flow int) api.Errno { return api.OK }
+func (l *Line) Teardown(flow int) api.Errno { return errno(l.inner.Teardown(flow)) }
